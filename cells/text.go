@@ -5,6 +5,7 @@ import (
 	"strconv"
 
 	"heddle/api"
+	"heddle/walk"
 )
 
 const digits = "0123456789abcdef"
@@ -17,7 +18,7 @@ func Text(ts []api.Type, t int, v []api.Cell) (string, api.Errno) {
 	var b []byte
 	var tell func(t int, list []api.Cell) (rest []api.Cell)
 	tell = func(t int, list []api.Cell) []api.Cell {
-		if inner := partsOf(ts[t]); len(inner) > 0 {
+		if inner := walk.Parts(ts[t]); len(inner) > 0 {
 			opening, closing := brackets(ts[t].Kind)
 			b = append(b, opening)
 			for i, one := range inner {

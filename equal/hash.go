@@ -4,6 +4,7 @@ import (
 	"math"
 
 	"heddle/api"
+	"heddle/walk"
 )
 
 // Hash answers the hash of a value of type t. Each nan in it counts as salt does.
@@ -41,7 +42,7 @@ func (h *hasher) fold(x uint64) {
 
 // value folds a sound value in. It is not ok, if an interface within it holds a type that can't be compared.
 func (h *hasher) value(t int, v []api.Cell) bool {
-	for i, kind := range kindsOf(h.types, t) {
+	for i, kind := range walk.Kinds(h.types, t) {
 		if !h.cell(kind, v[i]) {
 			return false
 		}

@@ -4,6 +4,7 @@ import (
 	"heddle/api"
 	"heddle/memory"
 	"heddle/types"
+	"heddle/walk"
 )
 
 // loader reads values from words, as far as these are sound.
@@ -30,7 +31,7 @@ func load(m *memory.Memory, ts []api.Type, t int, words []uint64) ([]api.Cell, a
 
 // value reads as many words as type t has.
 func (l *loader) value(t int, words []uint64) ([]api.Cell, bool) {
-	kinds := kindsOf(l.types, t)
+	kinds := walk.Kinds(l.types, t)
 	l.size += len(kinds)
 	if l.size > api.MaxCells {
 		return nil, false

@@ -6,6 +6,7 @@ import (
 	"heddle/api"
 	"heddle/memory"
 	"heddle/types"
+	"heddle/walk"
 )
 
 // saver writes values in words, and makes the objects that they ask for.
@@ -19,7 +20,7 @@ type saver struct {
 // save answers a sound value of type t in words.
 func save(m *memory.Memory, ts []api.Type, t int, v []api.Cell, roots []int) ([]uint64, api.Errno) {
 	// The spare room of the roots is the caller's, so the list is one of its own.
-	s := saver{memory: m, types: ts, held: appendNames(slices.Clone(roots), ts, t, v)}
+	s := saver{memory: m, types: ts, held: slices.Concat(roots, walk.Names(ts, t, v))}
 	if !allLive(m, s.held) {
 		return nil, api.ErrNone
 	}
@@ -28,7 +29,7 @@ func save(m *memory.Memory, ts []api.Type, t int, v []api.Cell, roots []int) ([]
 
 func (s *saver) value(t int, v []api.Cell) ([]uint64, api.Errno) {
 	var words []uint64
-	for i, kind := range kindsOf(s.types, t) {
+	for i, kind := range walk.Kinds(s.types, t) {
 		more, e := s.cell(kind, v[i])
 		if e != api.OK {
 			return nil, e
