@@ -1,4 +1,4 @@
-// Package numbers writes and reads numbers as bytes: seven bits a byte, the lowest first. See shared/doc/02-types.md.
+// Package numbers writes and reads the numbers of which tables of types and programs are made as bytes: seven bits a byte, the lowest first. It is no layer. See shared/doc/02-types.md.
 package numbers
 
 // Limit is the highest number that may stand in a table of types or in a program, but for the long ones there.
@@ -6,6 +6,16 @@ const Limit = 1<<31 - 1
 
 // more is set in every byte of a number but the last.
 const more = 0x80
+
+// Fit tells whether all of list are from 0 to Limit.
+func Fit(list ...int) bool {
+	for _, n := range list {
+		if n < 0 || n > Limit {
+			return false
+		}
+	}
+	return true
+}
 
 // Append answers b with the bytes of n behind it.
 func Append(b []byte, n uint64) []byte {
