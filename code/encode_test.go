@@ -1,0 +1,282 @@
+package code_test
+
+import (
+	"bytes"
+	"math"
+	"slices"
+	"strings"
+	"testing"
+
+	"heddle/api"
+)
+
+// P18.2, P18.3: the chapter's example.
+func TestExample(t *testing.T) {
+	wantBoth(t, api.Prog{}, []byte{0, 0, 0, 0})
+	wantBoth(t, within(api.Instr{Op: api.OpHalt}), []byte{0, 0, 0, 1, 0, 0, 0, 1, 40})
+	wantFault(t, []byte{0, 0, 0, 1, 0, 0, 0, 1, 42}, 8, api.ErrText)
+	wantFault(t, []byte{0, 1, 5, 65}, 2, api.ErrText)
+}
+
+// P18.2, P18.3: each operation has its fields, in the chapter's order.
+func TestOperationsAsBytes(t *testing.T) {
+	for op := 1; op <= opCount; op++ {
+		wantBoth(t, within(full(op)), join([]byte{0, 0, 0, 1, 0, 0, 0, 1}, fullBytes(op)))
+		// Fields that are zero are written too.
+		none := join([]byte{0, 0, 0, 1, 0, 0, 0, 2, byte(op)}, make([]byte, len(lettersOf(op))), []byte{api.OpYield})
+		wantBoth(t, within(api.Instr{Op: op}, api.Instr{Op: api.OpYield}), none)
+	}
+}
+
+// P18.2, P18.3: each kind has its numbers, in chapter 2's order, though the table is not sound.
+func TestKindsAsBytes(t *testing.T) {
+	for _, c := range []struct {
+		one api.Type
+		b   []byte
+	}{
+		{api.Type{Kind: api.KBool}, []byte{1}},
+		{api.Type{Kind: api.KInt}, []byte{2}},
+		{api.Type{Kind: api.KFloat}, []byte{3}},
+		{api.Type{Kind: api.KStr}, []byte{4}},
+		{api.Type{Kind: api.KPtr, Elem: 9}, []byte{5, 9}},
+		{api.Type{Kind: api.KMap, Key: 3, Elem: 200}, []byte{6, 3, 200, 1}},
+		{api.Type{Kind: api.KIface}, []byte{7}},
+		{api.Type{Kind: api.KStruct}, []byte{8, 0}},
+		{api.Type{Kind: api.KStruct, Fields: []int{0, 5, 4}}, []byte{8, 3, 0, 5, 4}},
+		{api.Type{Kind: api.KStruct, Fields: make([]int, 20)}, join([]byte{8, 20}, make([]byte, 20))},
+		{api.Type{Kind: api.KArray, Elem: 7, Len: 0}, []byte{9, 7, 0}},
+		{api.Type{Kind: api.KArray, Elem: 7, Len: 17}, []byte{9, 7, 17}},
+		{api.Type{Kind: api.KArray, Elem: 7, Len: limit}, join([]byte{9, 7}, most)},
+		{api.Type{Kind: api.KIter, Elem: 5}, []byte{10, 5}},
+	} {
+		wantBoth(t, api.Prog{Types: []api.Type{c.one}}, join([]byte{1}, c.b, []byte{0, 0, 0}))
+		wantBoth(t, api.Prog{Types: []api.Type{c.one, {Kind: api.KFloat}}, Globals: []int{5}}, join([]byte{2}, c.b, []byte{3, 0, 1, 5, 0}))
+	}
+	// More types than a sound table has.
+	wantBoth(t, api.Prog{Types: slices.Repeat([]api.Type{{Kind: api.KStr}}, 200)}, join([]byte{200, 1}, bytes.Repeat([]byte{4}, 200), []byte{0, 0, 0}))
+}
+
+// P18.2, P18.3: strings and globals, more and longer ones than sound programs have.
+func TestStringsAndGlobalsAsBytes(t *testing.T) {
+	wantBoth(t, api.Prog{Strs: []string{""}}, []byte{0, 1, 0, 0, 0})
+	wantBoth(t, api.Prog{Strs: []string{"ab", "", "\x80\x00\xff"}}, []byte{0, 3, 2, 'a', 'b', 0, 3, 0x80, 0, 0xff, 0, 0})
+	long := strings.Repeat("x", api.MaxStr+1)
+	wantBoth(t, api.Prog{Strs: []string{long, "y"}}, join([]byte{0, 2, 0x81, 32}, []byte(long), []byte{1, 'y', 0, 0}))
+	wantBoth(t, api.Prog{Strs: make([]string, 300)}, join([]byte{0, 0xac, 2}, make([]byte, 300), []byte{0, 0}))
+	wantBoth(t, api.Prog{Globals: []int{0}}, []byte{0, 0, 1, 0, 0})
+	wantBoth(t, api.Prog{Globals: []int{127, 128, limit, 0}}, join([]byte{0, 0, 4, 127, 128, 1}, most, []byte{0, 0}))
+	wantBoth(t, api.Prog{Globals: make([]int, 300)}, join([]byte{0, 0, 0xac, 2}, make([]byte, 300), []byte{0}))
+}
+
+// P18.2, P18.3: functions, one behind the other, more and longer ones than sound programs have.
+func TestFunctionsAsBytes(t *testing.T) {
+	wantBoth(t, api.Prog{Funcs: []api.Func{{}}}, []byte{0, 0, 0, 1, 0, 0, 0, 0})
+	wantBoth(t, api.Prog{Funcs: []api.Func{{Params: 1, Locals: []int{2, 3}, Result: 4, Code: []api.Instr{{Op: api.OpHalt}, {Op: api.OpRet, A: 5}}}, {Params: 6, Result: 7}}},
+		[]byte{0, 0, 0, 2, 1, 2, 2, 3, 4, 2, 40, 36, 5, 6, 0, 7, 0})
+	wantBoth(t, api.Prog{Funcs: []api.Func{{Params: limit, Locals: []int{limit}, Result: limit}}}, join([]byte{0, 0, 0, 1}, most, []byte{1}, most, most, []byte{0}))
+	wantBoth(t, api.Prog{Funcs: make([]api.Func, 200)}, join([]byte{0, 0, 0, 200, 1}, make([]byte, 800)))
+	wantBoth(t, api.Prog{Funcs: []api.Func{{Locals: make([]int, 200), Code: slices.Repeat([]api.Instr{{Op: api.OpHalt}}, 2000)}}},
+		join([]byte{0, 0, 0, 1, 0, 200, 1}, make([]byte, 200), []byte{0, 0xd0, 15}, bytes.Repeat([]byte{40}, 2000)))
+	wantBoth(t, within(api.Instr{Op: api.OpCall, Args: make([]int, 200)}), join([]byte{0, 0, 0, 1, 0, 0, 0, 1, 35, 0, 0, 200, 1}, make([]byte, 200)))
+}
+
+// P18.2, P18.3: a program with something of everything.
+func TestSample(t *testing.T) {
+	wantBoth(t, sample(), sampleBytes())
+}
+
+// P18.2, P18.3: numbers, on both sides of each further byte; N up to 2^64 - 1.
+func TestNumbersAsBytes(t *testing.T) {
+	for _, c := range []struct {
+		n uint64
+		b []byte
+	}{
+		{0, []byte{0}}, {1, []byte{1}}, {127, []byte{127}}, {128, []byte{0x80, 1}}, {16383, []byte{0xff, 127}}, {16384, []byte{0x80, 0x80, 1}},
+		{limit, most}, {limit + 1, above}, {1<<63 - 1, []byte{0xff, 0xff, 0xff, 0xff, 0xff, 0xff, 0xff, 0xff, 127}},
+		{1 << 63, []byte{0x80, 0x80, 0x80, 0x80, 0x80, 0x80, 0x80, 0x80, 0x80, 1}}, {math.MaxUint64, longest},
+	} {
+		for _, op := range []int{api.OpInt, api.OpFloat, api.OpBool} {
+			wantBoth(t, within(api.Instr{Op: op, A: 3, N: c.n}), join([]byte{0, 0, 0, 1, 0, 0, 0, 1, byte(op), 3}, c.b))
+		}
+		if c.n > limit {
+			continue
+		}
+		n := int(c.n)
+		wantBoth(t, within(api.Instr{Op: api.OpNext, A: n, B: n, C: n, D: n}), join([]byte{0, 0, 0, 1, 0, 0, 0, 1, 32}, c.b, c.b, c.b, c.b))
+		wantBoth(t, within(api.Instr{Op: api.OpCall, A: n, B: n, Args: []int{n, n}}), join([]byte{0, 0, 0, 1, 0, 0, 0, 1, 35}, c.b, c.b, []byte{2}, c.b, c.b))
+	}
+}
+
+// places answers all numbers of a program but the long ones.
+func places(p *api.Prog) (list []*int) {
+	for i := range p.Types {
+		one := &p.Types[i]
+		list = append(list, &one.Kind, &one.Elem, &one.Key, &one.Len)
+		for j := range one.Fields {
+			list = append(list, &one.Fields[j])
+		}
+	}
+	for i := range p.Globals {
+		list = append(list, &p.Globals[i])
+	}
+	for i := range p.Funcs {
+		f := &p.Funcs[i]
+		list = append(list, &f.Params, &f.Result)
+		for j := range f.Locals {
+			list = append(list, &f.Locals[j])
+		}
+		for j := range f.Code {
+			in := &f.Code[j]
+			list = append(list, &in.Op, &in.A, &in.B, &in.C, &in.D)
+			for k := range in.Args {
+				list = append(list, &in.Args[k])
+			}
+		}
+	}
+	return list
+}
+
+// P18.2: no number may be below 0 or above 2147483647, wherever it stands.
+func TestNumbersThatCantBeWritten(t *testing.T) {
+	p := sample()
+	for i, n := range places(&p) {
+		for _, wrong := range []int{math.MinInt, -limit - 1, -1, limit + 1, 1 << 32, math.MaxInt} {
+			kept := *n
+			*n = wrong
+			wantNoBytes(t, "a wrong number", p, api.ErrForm)
+			*n = kept
+		}
+		if t.Failed() {
+			t.Fatalf("number %d", i)
+		}
+	}
+	wantEncode(t, p, sampleBytes())
+}
+
+// P18.2: fields that an operation does not name are zero, and those that it names may be anything.
+func TestFieldsThatCantBeWritten(t *testing.T) {
+	for op := 1; op <= opCount; op++ {
+		for _, letter := range "ABCDNG" {
+			for _, n := range []int{1, limit} {
+				in := withField(api.Instr{Op: op}, letter, n)
+				p := within(api.Instr{Op: api.OpYield}, in, api.Instr{Op: api.OpHalt})
+				if strings.ContainsRune(lettersOf(op), letter) {
+					b := encoded(t, p)
+					wantDecode(t, b, p)
+					continue
+				}
+				wantNoBytes(t, "a field that is not named", p, api.ErrForm)
+			}
+		}
+		if letters := lettersOf(op); !strings.ContainsRune(letters, 'G') {
+			wantNoBytes(t, "an argument", within(api.Instr{Op: op, Args: []int{0}}), api.ErrForm)
+		}
+		if letters := lettersOf(op); !strings.ContainsRune(letters, 'N') {
+			wantNoBytes(t, "a long number", within(api.Instr{Op: op, N: math.MaxUint64}), api.ErrForm)
+		}
+	}
+}
+
+// P18.2: so are a type's.
+func TestTypesThatCantBeWritten(t *testing.T) {
+	named := map[int]string{api.KPtr: "E", api.KMap: "KE", api.KStruct: "F", api.KArray: "EL", api.KIter: "E"}
+	for kind := 1; kind <= kindsEnd; kind++ {
+		for letter, one := range map[string]api.Type{"E": {Kind: kind, Elem: 1}, "K": {Kind: kind, Key: 1}, "L": {Kind: kind, Len: 1}, "F": {Kind: kind, Fields: []int{0}}} {
+			p := api.Prog{Types: []api.Type{{Kind: api.KInt}, one}}
+			if strings.Contains(named[kind], letter) {
+				wantDecode(t, encoded(t, p), p)
+			} else {
+				wantNoBytes(t, "a type's field that is not named", p, api.ErrForm)
+			}
+		}
+	}
+}
+
+// P18.2: Ops and Kinds that are none.
+func TestNoOperationsAndKinds(t *testing.T) {
+	for _, n := range []int{math.MinInt, -1, 0, 42, 128 + 5, 256 + 5, limit, 1<<32 + 5, math.MaxInt} {
+		wantNoBytes(t, "no Op", within(api.Instr{Op: n}), api.ErrForm)
+		wantNoBytes(t, "no Op behind others", api.Prog{Funcs: []api.Func{{}, {Code: []api.Instr{{Op: api.OpHalt}, {Op: n}}}}}, api.ErrForm)
+		wantNoBytes(t, "no Kind", api.Prog{Types: []api.Type{{Kind: n}}}, api.ErrForm)
+		wantNoBytes(t, "no Kind behind others", api.Prog{Types: []api.Type{{Kind: api.KInt}, {Kind: n}}}, api.ErrForm)
+	}
+	wantNoBytes(t, "Kind 11", api.Prog{Types: []api.Type{{Kind: 11}}}, api.ErrForm)
+}
+
+// larger are programs that grow by n bytes at one place, all of which ask for MaxBytes bytes if n is right.
+var larger = map[string]func(n int) api.Prog{
+	"types":   func(n int) api.Prog { return api.Prog{Types: slices.Repeat([]api.Type{{Kind: api.KInt}}, n)} },
+	"fields":  func(n int) api.Prog { return api.Prog{Types: []api.Type{{Kind: api.KStruct, Fields: make([]int, n)}}} },
+	"a text":  func(n int) api.Prog { return api.Prog{Strs: []string{strings.Repeat("x", n)}} },
+	"texts":   func(n int) api.Prog { return api.Prog{Strs: make([]string, n)} },
+	"globals": func(n int) api.Prog { return api.Prog{Globals: make([]int, n)} },
+	"locals":  func(n int) api.Prog { return api.Prog{Funcs: []api.Func{{Locals: make([]int, n)}}} },
+	"code":    func(n int) api.Prog { return within(slices.Repeat([]api.Instr{{Op: api.OpHalt}}, n)...) },
+	"args":    func(n int) api.Prog { return within(api.Instr{Op: api.OpCall, Args: make([]int, n)}) },
+	"functions": func(n int) api.Prog {
+		return api.Prog{Strs: []string{strings.Repeat("x", n%4)}, Funcs: make([]api.Func, n/4)}
+	},
+	"long numbers": func(n int) api.Prog {
+		return api.Prog{Strs: []string{strings.Repeat("x", n%12)}, Funcs: []api.Func{{Code: slices.Repeat([]api.Instr{{Op: api.OpInt, N: math.MaxUint64}}, n/12)}}}
+	},
+}
+
+// fitting answers the greatest n of which a program has at most MaxBytes bytes, by how many it has with few.
+func fitting(t *testing.T, build func(n int) api.Prog) int {
+	// 40000 of them have counts of as many bytes as the greatest has.
+	n := 40000
+	return n + api.MaxBytes - len(encoded(t, build(n)))
+}
+
+// P18.2, P18.3: MaxBytes bytes, and one more.
+func TestEncodeLarge(t *testing.T) {
+	for name, build := range larger {
+		n := fitting(t, build)
+		b := encoded(t, build(n))
+		if len(b) != api.MaxBytes {
+			t.Fatalf("%s: %d bytes", name, len(b))
+		}
+		wantDecode(t, b, build(n))
+		for _, more := range []int{1, 2, 3, 100, 100000} {
+			wantNoBytes(t, name, build(n+more), api.ErrLarge)
+		}
+	}
+	// What comes behind counts too.
+	text := strings.Repeat("x", api.MaxBytes-7)
+	wantNoBytes(t, "a text and then a number", api.Prog{Strs: []string{text}, Globals: []int{1}}, api.ErrLarge)
+	wantNoBytes(t, "two texts", api.Prog{Strs: []string{text, ""}}, api.ErrLarge)
+	wantNoBytes(t, "a text behind too long a one", api.Prog{Strs: []string{text + text, text}}, api.ErrLarge)
+	if b := encoded(t, api.Prog{Strs: []string{text}}); len(b) != api.MaxBytes {
+		t.Errorf("%d bytes", len(b))
+	}
+	// Five bytes a number, beyond the limit by each of one to five of them.
+	for n := range 5 {
+		ts := slices.Concat(slices.Repeat([]api.Type{{Kind: api.KInt}}, n), slices.Repeat([]api.Type{{Kind: api.KPtr, Elem: limit}}, api.MaxBytes/6+1))
+		wantNoBytes(t, "types and then texts", api.Prog{Types: ts, Strs: []string{"", "x", text}}, api.ErrLarge)
+	}
+}
+
+// P18.2: programs that are far too large.
+func TestEncodeFarTooLarge(t *testing.T) {
+	list := slices.Repeat([]api.Instr{{Op: api.OpCall, A: limit, B: limit, Args: make([]int, 1000)}}, 1000)
+	wantNoBytes(t, "code", api.Prog{Funcs: slices.Repeat([]api.Func{{Code: list}}, 50)}, api.ErrLarge)
+	wantNoBytes(t, "texts", api.Prog{Strs: slices.Repeat([]string{strings.Repeat("x", 1<<24)}, 100)}, api.ErrLarge)
+	wantNoBytes(t, "globals", api.Prog{Globals: make([]int, 1<<23)}, api.ErrLarge)
+}
+
+// P18.2, R2: what can't be written is ErrForm, however many bytes it would have.
+func TestFormAheadOfLarge(t *testing.T) {
+	for name, build := range larger {
+		for _, n := range []int{api.MaxBytes, api.MaxBytes * 3} {
+			p := build(n)
+			p.Funcs = append(p.Funcs, api.Func{Code: []api.Instr{{}}})
+			wantNoBytes(t, name+" and no Op", p, api.ErrForm)
+			p = build(n)
+			p.Types = append(p.Types, api.Type{Kind: api.KBool, Len: 1})
+			wantNoBytes(t, name+" and a wrong type", p, api.ErrForm)
+			p = build(n)
+			p.Globals = append(p.Globals, -1)
+			wantNoBytes(t, name+" and a wrong global", p, api.ErrForm)
+		}
+	}
+}
