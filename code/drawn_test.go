@@ -8,6 +8,7 @@ import (
 
 	"heddle/api"
 	"heddle/code"
+	"heddle/progs"
 )
 
 // P18.3, held against the model, at all lists of bytes of a few that matter, up to a length. Where more bytes change nothing, only some are laid behind.
@@ -132,8 +133,8 @@ func TestDrawnNumbers(t *testing.T) {
 	count := map[api.Errno]int{}
 	for range 20000 {
 		p := d.program()
-		q := copied(p)
-		list := places(&q)
+		q := progs.Copy(p)
+		list := progs.Numbers(&q)
 		if len(list) == 0 {
 			continue
 		}
@@ -161,7 +162,7 @@ func TestDrawnNumbers(t *testing.T) {
 
 // canWrite tells by the chapter's words whether a program can be written.
 func canWrite(p api.Prog) bool {
-	for _, n := range places(&p) {
+	for _, n := range progs.Numbers(&p) {
 		if *n < 0 || *n > limit {
 			return false
 		}

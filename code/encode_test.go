@@ -8,6 +8,7 @@ import (
 	"testing"
 
 	"heddle/api"
+	"heddle/progs"
 )
 
 // P18.2, P18.3: the chapter's example.
@@ -107,39 +108,10 @@ func TestNumbersAsBytes(t *testing.T) {
 	}
 }
 
-// places answers all numbers of a program but the long ones.
-func places(p *api.Prog) (list []*int) {
-	for i := range p.Types {
-		one := &p.Types[i]
-		list = append(list, &one.Kind, &one.Elem, &one.Key, &one.Len)
-		for j := range one.Fields {
-			list = append(list, &one.Fields[j])
-		}
-	}
-	for i := range p.Globals {
-		list = append(list, &p.Globals[i])
-	}
-	for i := range p.Funcs {
-		f := &p.Funcs[i]
-		list = append(list, &f.Params, &f.Result)
-		for j := range f.Locals {
-			list = append(list, &f.Locals[j])
-		}
-		for j := range f.Code {
-			in := &f.Code[j]
-			list = append(list, &in.Op, &in.A, &in.B, &in.C, &in.D)
-			for k := range in.Args {
-				list = append(list, &in.Args[k])
-			}
-		}
-	}
-	return list
-}
-
 // P18.2: no number may be below 0 or above 2147483647, wherever it stands.
 func TestNumbersThatCantBeWritten(t *testing.T) {
 	p := sample()
-	for i, n := range places(&p) {
+	for i, n := range progs.Numbers(&p) {
 		for _, wrong := range []int{math.MinInt, -limit - 1, -1, limit + 1, 1 << 32, math.MaxInt} {
 			kept := *n
 			*n = wrong

@@ -11,6 +11,7 @@ import (
 
 	"heddle/api"
 	"heddle/code"
+	"heddle/progs"
 )
 
 const (
@@ -171,29 +172,9 @@ func join(lists ...[]byte) []byte {
 	return slices.Concat(lists...)
 }
 
-// copied answers a program in memory of its own, whose empty lists are nil.
-func copied(p api.Prog) api.Prog {
-	p.Types, p.Strs, p.Globals, p.Funcs = fresh(p.Types), fresh(p.Strs), fresh(p.Globals), fresh(p.Funcs)
-	for i := range p.Types {
-		p.Types[i].Fields = fresh(p.Types[i].Fields)
-	}
-	for i := range p.Funcs {
-		f := &p.Funcs[i]
-		f.Locals, f.Code = fresh(f.Locals), fresh(f.Code)
-		for j := range f.Code {
-			f.Code[j].Args = fresh(f.Code[j].Args)
-		}
-	}
-	return p
-}
-
-func fresh[T any](list []T) []T {
-	return append([]T(nil), list...)
-}
-
 // alike holds programs against each other by the language's own means.
 func alike(p, q api.Prog) bool {
-	return reflect.DeepEqual(copied(p), copied(q))
+	return reflect.DeepEqual(progs.Copy(p), progs.Copy(q))
 }
 
 func wantEncode(t *testing.T, p api.Prog, want []byte) {

@@ -8,60 +8,22 @@ import (
 
 	"heddle/api"
 	"heddle/code"
+	"heddle/progs"
 )
-
-// roomy answers a copy of a program, all of whose lists have spare room with something in it.
-func roomy(p api.Prog) api.Prog {
-	p = copied(p)
-	for i := range p.Types {
-		p.Types[i].Fields = withRoom(p.Types[i].Fields, 91)
-	}
-	for i := range p.Funcs {
-		f := &p.Funcs[i]
-		for j := range f.Code {
-			f.Code[j].Args = withRoom(f.Code[j].Args, 92)
-		}
-		f.Code, f.Locals = withRoom(f.Code, api.Instr{Op: 93}), withRoom(f.Locals, 94)
-	}
-	p.Types, p.Strs = withRoom(p.Types, api.Type{Kind: 95}), withRoom(p.Strs, "spare")
-	p.Globals, p.Funcs = withRoom(p.Globals, 96), withRoom(p.Funcs, api.Func{Params: 97})
-	return p
-}
-
-func withRoom[T any](list []T, spare T) []T {
-	return append(slices.Clone(list), spare, spare, spare)[:len(list)]
-}
-
-// whole answers a copy of a program with the spare room of its lists.
-func whole(p api.Prog) api.Prog {
-	p.Types, p.Strs, p.Globals, p.Funcs = p.Types[:cap(p.Types)], p.Strs[:cap(p.Strs)], p.Globals[:cap(p.Globals)], p.Funcs[:cap(p.Funcs)]
-	p.Types, p.Funcs = slices.Clone(p.Types), slices.Clone(p.Funcs)
-	for i := range p.Types {
-		p.Types[i].Fields = p.Types[i].Fields[:cap(p.Types[i].Fields)]
-	}
-	for i := range p.Funcs {
-		f := &p.Funcs[i]
-		f.Locals, f.Code = f.Locals[:cap(f.Locals)], slices.Clone(f.Code[:cap(f.Code)])
-		for j := range f.Code {
-			f.Code[j].Args = f.Code[j].Args[:cap(f.Code[j].Args)]
-		}
-	}
-	return copied(p)
-}
 
 // R4: what is handed in stays as it is, spare room included, and is not kept.
 func TestArgumentsStay(t *testing.T) {
 	for _, p := range some() {
-		given := roomy(p)
-		before := whole(given)
+		given := progs.Roomy(p)
+		before := progs.Whole(given)
 		b, _ := code.Encode(given)
 		code.Same(given, p)
 		code.Same(p, given)
-		if !reflect.DeepEqual(whole(given), before) {
+		if !reflect.DeepEqual(progs.Whole(given), before) {
 			t.Fatalf("what was handed in has changed: %v", given)
 		}
 		want := slices.Clone(b)
-		for _, n := range places(&given) {
+		for _, n := range progs.Numbers(&given) {
 			*n = 55
 		}
 		if !bytes.Equal(b, want) {

@@ -7,6 +7,7 @@ import (
 
 	"heddle/api"
 	"heddle/code"
+	"heddle/progs"
 )
 
 func wantSame(t *testing.T, what string, p, q api.Prog, want bool) {
@@ -24,7 +25,7 @@ func TestSameOfSome(t *testing.T) {
 	list := some()
 	for i, p := range list {
 		for j, q := range list {
-			wantSame(t, "two of some", copied(p), q, i == j || alike(p, q))
+			wantSame(t, "two of some", progs.Copy(p), q, i == j || alike(p, q))
 		}
 	}
 }
@@ -45,7 +46,7 @@ func TestSameOfEmptyLists(t *testing.T) {
 func TestSameOfNumbers(t *testing.T) {
 	for _, first := range []int{0, -1, math.MinInt} {
 		p, q := sample(), sample()
-		there, here := places(&p), places(&q)
+		there, here := progs.Numbers(&p), progs.Numbers(&q)
 		for i := range there {
 			if first != 0 {
 				*there[i], *here[i] = first, first
@@ -93,10 +94,10 @@ func TestSameOfTheRest(t *testing.T) {
 		"types' order":   func(p *api.Prog) { p.Types[0], p.Types[1] = p.Types[1], p.Types[0] },
 		"globals' order": func(p *api.Prog) { slices.Reverse(p.Globals) },
 	} {
-		p := copied(sample())
+		p := progs.Copy(sample())
 		change(&p)
 		wantSame(t, name, p, sample(), false)
-		wantSame(t, name+", of both", p, copied(p), true)
+		wantSame(t, name+", of both", p, progs.Copy(p), true)
 	}
 	two := api.Prog{Strs: []string{"a", "bc"}}
 	wantSame(t, "texts cut elsewhere", two, api.Prog{Strs: []string{"ab", "c"}}, false)
