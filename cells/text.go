@@ -5,10 +5,12 @@ import (
 	"strconv"
 
 	"heddle/api"
+	"heddle/quoted"
 	"heddle/walk"
 )
 
-const digits = "0123456789abcdef"
+// noughts are as many as a float has digits.
+const noughts = "0000000000000000"
 
 // Text answers the text of a value of type t.
 func Text(ts []api.Type, t int, v []api.Cell) (string, api.Errno) {
@@ -61,7 +63,7 @@ func appendCell(b []byte, kind int, c api.Cell) []byte {
 	case api.KFloat:
 		return appendFloat(b, c.N)
 	case api.KStr:
-		return appendQuoted(b, c.S)
+		return quoted.Append(b, c.S)
 	}
 	return append(b, nameOf(kind, c.N)...)
 }
@@ -83,26 +85,6 @@ func appendFloat(b []byte, bits uint64) []byte {
 	if math.IsNaN(math.Float64frombits(bits)) {
 		return append(b, "nan"...)
 	}
-	for shift := 56; shift >= 0; shift -= 8 {
-		b = appendByte(b, byte(bits>>shift))
-	}
-	return b
-}
-
-func appendQuoted(b []byte, s string) []byte {
-	b = append(b, '\'')
-	for i := range len(s) {
-		c := s[i]
-		if c >= 0x20 && c <= 0x7e && c != '\'' && c != '\\' {
-			b = append(b, c)
-		} else {
-			b = appendByte(append(b, '\\'), c)
-		}
-	}
-	return append(b, '\'')
-}
-
-// appendByte answers b with the two digits of c behind it.
-func appendByte(b []byte, c byte) []byte {
-	return append(b, digits[c>>4], digits[c&15])
+	digits := strconv.FormatUint(bits, 16)
+	return append(append(b, noughts[len(digits):]...), digits...)
 }

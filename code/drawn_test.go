@@ -3,7 +3,6 @@ package code_test
 import (
 	"math"
 	"slices"
-	"strings"
 	"testing"
 
 	"heddle/api"
@@ -36,86 +35,11 @@ func TestAllShortBytes(t *testing.T) {
 	}
 }
 
-// draw is a row of numbers that is the same at each run.
-type draw uint64
-
-func (d *draw) next() uint64 {
-	*d += 0x9e3779b97f4a7c15
-	n := uint64(*d)
-	n = (n ^ n>>30) * 0xbf58476d1ce4e5b9
-	n = (n ^ n>>27) * 0x94d049bb133111eb
-	return n ^ n>>31
-}
-
-func (d *draw) below(n int) int {
-	return int(d.next() % uint64(n))
-}
-
-// number answers numbers of each length in bytes.
-func (d *draw) number() int {
-	return int(d.next() & limit >> d.below(31))
-}
-
-func (d *draw) list(most int) (list []int) {
-	for range d.below(most + 1) {
-		list = append(list, d.number())
-	}
-	return list
-}
-
-func (d *draw) oneType() api.Type {
-	one := api.Type{Kind: 1 + d.below(kindsEnd)}
-	switch one.Kind {
-	case api.KPtr, api.KIter:
-		one.Elem = d.number()
-	case api.KMap:
-		one.Key, one.Elem = d.number(), d.number()
-	case api.KStruct:
-		one.Fields = d.list(4)
-	case api.KArray:
-		one.Elem, one.Len = d.number(), d.number()
-	}
-	return one
-}
-
-func (d *draw) instr() api.Instr {
-	in := api.Instr{Op: 1 + d.below(opCount)}
-	for _, letter := range lettersOf(in.Op) {
-		in = withField(in, letter, d.number())
-	}
-	if in.N != 0 {
-		in.N = d.next() >> d.below(64)
-	}
-	if in.Op == api.OpCall {
-		in.Args = d.list(4)
-	}
-	return in
-}
-
-// program answers one that can be written.
-func (d *draw) program() (p api.Prog) {
-	for range d.below(5) {
-		p.Types = append(p.Types, d.oneType())
-	}
-	for range d.below(4) {
-		p.Strs = append(p.Strs, strings.Repeat(string([]byte{byte(d.next())}), d.below(1+d.below(200))))
-	}
-	p.Globals = d.list(3)
-	for range d.below(4) {
-		f := api.Func{Params: d.number(), Locals: d.list(4), Result: d.number()}
-		for range d.below(6) {
-			f.Code = append(f.Code, d.instr())
-		}
-		p.Funcs = append(p.Funcs, f)
-	}
-	return p
-}
-
 // P2, P18.2 to P18.4: drawn programs, there and back.
 func TestDrawnPrograms(t *testing.T) {
-	d := draw(18)
+	d := progs.Draw(18)
 	for range 20000 {
-		p := d.program()
+		p := d.Program()
 		b := encoded(t, p)
 		if want, at, _, e := decode(b); !alike(p, want) || e != api.OK {
 			t.Fatalf("%v has the bytes % x, which are %v, %d at %d", p, b, want, e, at)
@@ -129,18 +53,18 @@ func TestDrawnPrograms(t *testing.T) {
 
 // P18.2, P18.4: drawn programs with one number changed, which may no longer be such as can be written.
 func TestDrawnNumbers(t *testing.T) {
-	d := draw(19)
+	d := progs.Draw(19)
 	count := map[api.Errno]int{}
 	for range 20000 {
-		p := d.program()
+		p := d.Program()
 		q := progs.Copy(p)
 		list := progs.Numbers(&q)
 		if len(list) == 0 {
 			continue
 		}
-		n := list[d.below(len(list))]
+		n := list[d.Below(len(list))]
 		before := *n
-		*n = []int{before + 1, before - 1, d.number(), -d.number(), limit + d.number(), 0, math.MinInt}[d.below(7)]
+		*n = []int{before + 1, before - 1, d.Number(), -d.Number(), limit + d.Number(), 0, math.MinInt}[d.Below(7)]
 		if code.Same(p, q) != (before == *n) {
 			t.Fatalf("Same(%v, %v) is %v", p, q, before != *n)
 		}
@@ -183,7 +107,7 @@ func canWrite(p api.Prog) bool {
 			}
 			rest := in
 			for _, letter := range lettersOf(in.Op) {
-				rest = withField(rest, letter, 0)
+				rest = progs.WithField(rest, letter, 0)
 				if letter == 'G' {
 					rest.Args = nil
 				}
@@ -198,12 +122,12 @@ func canWrite(p api.Prog) bool {
 
 // P18.3, held against the model: bytes of drawn programs with some of them changed, taken out, put in, or cut off.
 func TestDrawnBytes(t *testing.T) {
-	d := draw(20)
+	d := progs.Draw(20)
 	count := map[api.Errno]int{}
 	for range 40000 {
-		b := encoded(t, d.program())
-		for range 1 + d.below(3) {
-			b = d.faulty(b)
+		b := encoded(t, d.Program())
+		for range 1 + d.Below(3) {
+			b = faulty(&d, b)
 		}
 		_, e := holdDecode(t, b)
 		count[e]++
@@ -217,10 +141,10 @@ func TestDrawnBytes(t *testing.T) {
 }
 
 // faulty answers b with one change.
-func (d *draw) faulty(b []byte) []byte {
-	at := d.below(len(b) + 1)
-	some := [][]byte{{0}, {1}, {byte(d.below(43))}, {byte(d.next())}, {0x80}, most, above, longest, {0x80, 0}}[d.below(9)]
-	switch d.below(4) {
+func faulty(d *progs.Draw, b []byte) []byte {
+	at := d.Below(len(b) + 1)
+	some := [][]byte{{0}, {1}, {byte(d.Below(43))}, {byte(d.Next())}, {0x80}, most, above, longest, {0x80, 0}}[d.Below(9)]
+	switch d.Below(4) {
 	case 0:
 		return slices.Clone(b[:at])
 	case 1:

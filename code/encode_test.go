@@ -108,71 +108,19 @@ func TestNumbersAsBytes(t *testing.T) {
 	}
 }
 
-// P18.2: no number may be below 0 or above 2147483647, wherever it stands.
-func TestNumbersThatCantBeWritten(t *testing.T) {
-	p := sample()
-	for i, n := range progs.Numbers(&p) {
-		for _, wrong := range []int{math.MinInt, -limit - 1, -1, limit + 1, 1 << 32, math.MaxInt} {
-			kept := *n
-			*n = wrong
-			wantNoBytes(t, "a wrong number", p, api.ErrForm)
-			*n = kept
+// P18.2: what can be written: each Op and Kind is one of api's, no number is below 0 or above 2147483647, and what is not named is zero.
+func TestWhatCanBeWritten(t *testing.T) {
+	for _, edge := range progs.Edges(lettersOf) {
+		if edge.Written {
+			wantDecode(t, encoded(t, edge.Prog), edge.Prog)
+		} else {
+			wantNoBytes(t, "what can't be written", edge.Prog, api.ErrForm)
 		}
 		if t.Failed() {
-			t.Fatalf("number %d", i)
+			t.Fatalf("%v", edge.Prog)
 		}
 	}
-	wantEncode(t, p, sampleBytes())
-}
-
-// P18.2: fields that an operation does not name are zero, and those that it names may be anything.
-func TestFieldsThatCantBeWritten(t *testing.T) {
-	for op := 1; op <= opCount; op++ {
-		for _, letter := range "ABCDNG" {
-			for _, n := range []int{1, limit} {
-				in := withField(api.Instr{Op: op}, letter, n)
-				p := within(api.Instr{Op: api.OpYield}, in, api.Instr{Op: api.OpHalt})
-				if strings.ContainsRune(lettersOf(op), letter) {
-					b := encoded(t, p)
-					wantDecode(t, b, p)
-					continue
-				}
-				wantNoBytes(t, "a field that is not named", p, api.ErrForm)
-			}
-		}
-		if letters := lettersOf(op); !strings.ContainsRune(letters, 'G') {
-			wantNoBytes(t, "an argument", within(api.Instr{Op: op, Args: []int{0}}), api.ErrForm)
-		}
-		if letters := lettersOf(op); !strings.ContainsRune(letters, 'N') {
-			wantNoBytes(t, "a long number", within(api.Instr{Op: op, N: math.MaxUint64}), api.ErrForm)
-		}
-	}
-}
-
-// P18.2: so are a type's.
-func TestTypesThatCantBeWritten(t *testing.T) {
-	named := map[int]string{api.KPtr: "E", api.KMap: "KE", api.KStruct: "F", api.KArray: "EL", api.KIter: "E"}
-	for kind := 1; kind <= kindsEnd; kind++ {
-		for letter, one := range map[string]api.Type{"E": {Kind: kind, Elem: 1}, "K": {Kind: kind, Key: 1}, "L": {Kind: kind, Len: 1}, "F": {Kind: kind, Fields: []int{0}}} {
-			p := api.Prog{Types: []api.Type{{Kind: api.KInt}, one}}
-			if strings.Contains(named[kind], letter) {
-				wantDecode(t, encoded(t, p), p)
-			} else {
-				wantNoBytes(t, "a type's field that is not named", p, api.ErrForm)
-			}
-		}
-	}
-}
-
-// P18.2: Ops and Kinds that are none.
-func TestNoOperationsAndKinds(t *testing.T) {
-	for _, n := range []int{math.MinInt, -1, 0, 42, 128 + 5, 256 + 5, limit, 1<<32 + 5, math.MaxInt} {
-		wantNoBytes(t, "no Op", within(api.Instr{Op: n}), api.ErrForm)
-		wantNoBytes(t, "no Op behind others", api.Prog{Funcs: []api.Func{{}, {Code: []api.Instr{{Op: api.OpHalt}, {Op: n}}}}}, api.ErrForm)
-		wantNoBytes(t, "no Kind", api.Prog{Types: []api.Type{{Kind: n}}}, api.ErrForm)
-		wantNoBytes(t, "no Kind behind others", api.Prog{Types: []api.Type{{Kind: api.KInt}, {Kind: n}}}, api.ErrForm)
-	}
-	wantNoBytes(t, "Kind 11", api.Prog{Types: []api.Type{{Kind: 11}}}, api.ErrForm)
+	wantNoBytes(t, "a long number", within(api.Instr{Op: api.OpHalt, N: math.MaxUint64}), api.ErrForm)
 }
 
 // larger are programs that grow by n bytes at one place, all of which ask for MaxBytes bytes if n is right.

@@ -51,40 +51,9 @@ func lettersOf(op int) string {
 	panic("no operation")
 }
 
-// withField sets a field of an instruction, of Args one number.
-func withField(in api.Instr, letter rune, n int) api.Instr {
-	switch letter {
-	case 'A':
-		in.A = n
-	case 'B':
-		in.B = n
-	case 'C':
-		in.C = n
-	case 'D':
-		in.D = n
-	case 'N':
-		in.N = uint64(n)
-	case 'G':
-		in.Args = []int{n}
-	}
-	return in
-}
-
-// full answers an instruction all of whose fields are there: 1 in A, 2 in B, 3 in C, 4 in D, 300 in N, and 6, 7 in Args.
+// full answers an instruction all of whose fields are there.
 func full(op int) api.Instr {
-	in := api.Instr{Op: op}
-	for i, letter := range "ABCD" {
-		if strings.ContainsRune(lettersOf(op), letter) {
-			in = withField(in, letter, i+1)
-		}
-	}
-	if strings.ContainsRune(lettersOf(op), 'N') {
-		in.N = 300
-	}
-	if strings.ContainsRune(lettersOf(op), 'G') {
-		in.Args = []int{6, 7}
-	}
-	return in
+	return progs.Full(op, lettersOf(op))
 }
 
 // fullBytes answers the bytes of full(op).
@@ -114,31 +83,15 @@ func within(list ...api.Instr) api.Prog {
 
 // sample answers a program with something of everything, which is not sound.
 func sample() api.Prog {
-	var every []api.Instr
-	for op := 1; op <= opCount; op++ {
-		every = append(every, full(op))
-	}
-	return api.Prog{
-		Types: []api.Type{
-			{Kind: api.KBool}, {Kind: api.KInt}, {Kind: api.KFloat}, {Kind: api.KStr}, {Kind: api.KPtr, Elem: 200},
-			{Kind: api.KMap, Key: 3, Elem: 1}, {Kind: api.KIface}, {Kind: api.KStruct, Fields: []int{1, 300, 3}},
-			{Kind: api.KArray, Elem: 1, Len: 5}, {Kind: api.KIter, Elem: 5}, {Kind: api.KStruct},
-		},
-		Strs:    []string{"", "abc", "\x00\xff\x80", strings.Repeat("long", 40)},
-		Globals: []int{3, 300, limit},
-		Funcs: []api.Func{
-			{Params: 2, Locals: []int{1, 2, 3000}, Result: 4, Code: every},
-			{},
-			{Params: limit, Result: limit, Code: []api.Instr{{Op: api.OpInt, A: limit, N: math.MaxUint64}, {Op: api.OpCall}, {Op: api.OpHalt}}},
-			{Locals: []int{0}},
-		},
-	}
+	p := progs.Sample(lettersOf)
+	p.Strs = append(p.Strs, strings.Repeat("long", 40))
+	return p
 }
 
 // sampleBytes answers the bytes of the sample, written out.
 func sampleBytes() []byte {
 	b := join([]byte{11, 1, 2, 3, 4, 5, 200, 1, 6, 3, 1, 7, 8, 3, 1, 0xac, 2, 3, 9, 1, 5, 10, 5, 8, 0},
-		[]byte{4, 0, 3, 'a', 'b', 'c', 3, 0, 0xff, 0x80, 160, 1}, bytes.Repeat([]byte("long"), 40),
+		[]byte{4, 0, 4, 'a', ' ', 'b', '\'', 3, 0, 0xff, 0x80, 160, 1}, bytes.Repeat([]byte("long"), 40),
 		[]byte{3, 3, 0xac, 2}, most,
 		[]byte{4, 2, 3, 1, 2, 0xb8, 23, 4, opCount})
 	for op := 1; op <= opCount; op++ {
@@ -288,7 +241,7 @@ func (m *model) instr() (in api.Instr) {
 		case 'G':
 			in.Args = m.list()
 		default:
-			in = withField(in, letter, m.plain())
+			in = progs.WithField(in, letter, m.plain())
 		}
 	}
 	return in

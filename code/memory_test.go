@@ -55,35 +55,6 @@ func TestFaultyBytesStay(t *testing.T) {
 	}
 }
 
-// lists answers, for each list that a program has, a call that spoils it, spare room included, and leaves the lists of its entries.
-func lists(p api.Prog) (calls []func()) {
-	spoilt := func(list []int) {
-		calls = append(calls, func() { spoil(list, 0xdead) })
-	}
-	spoilt(p.Globals)
-	for _, one := range p.Types {
-		spoilt(one.Fields)
-	}
-	for _, f := range p.Funcs {
-		spoilt(f.Locals)
-		calls = append(calls, func() { spoilEach(f.Code, func(in *api.Instr) { in.Op = 0xdead }) })
-		for _, in := range f.Code {
-			spoilt(in.Args)
-		}
-	}
-	return append(calls,
-		func() { spoil(p.Strs, "spoilt") },
-		func() { spoilEach(p.Types, func(one *api.Type) { one.Kind = 0xdead }) },
-		func() { spoilEach(p.Funcs, func(f *api.Func) { f.Params = 0xdead }) })
-}
-
-func spoilEach[T any](list []T, change func(one *T)) {
-	list = list[:cap(list)]
-	for i := range list {
-		change(&list[i])
-	}
-}
-
 // spoil gives all of a list, spare room too, another value.
 func spoil[T any](list []T, value T) {
 	list = list[:cap(list)]
@@ -105,65 +76,15 @@ func TestDecodedListsAreApart(t *testing.T) {
 		},
 	}
 	b := encoded(t, p)
-	q, _, _ := code.Decode(b)
-	count := len(lists(q))
-	for i := range count {
-		one, _, _ := code.Decode(b)
-		lists(one)[i]()
-		changed := 0
-		for j, told := range parts(one) {
-			if !reflect.DeepEqual(told, parts(p)[j]) {
-				changed++
-			}
-		}
-		if changed > 1 {
-			t.Errorf("with list %d of %d, %d lists changed: %v", i, count, changed, one)
-		}
-		if !alike(q, p) {
-			t.Fatalf("one answer changed with the other: %v", q)
-		}
+	one, _, _ := code.Decode(b)
+	other, _, _ := code.Decode(b)
+	if !progs.Apart(one) {
+		t.Errorf("two lists of an answer share memory: %v", one)
 	}
-}
-
-// parts answers what each list of a program has by itself, without what its entries' lists have.
-func parts(p api.Prog) (all [][]any) {
-	var kinds, strs, heads []any
-	for _, one := range p.Types {
-		kinds = append(kinds, one.Kind)
+	spoil(one.Strs, "spoilt")
+	if !alike(other, p) {
+		t.Errorf("one answer changed with the other: %v", other)
 	}
-	for _, s := range p.Strs {
-		strs = append(strs, s)
-	}
-	for _, f := range p.Funcs {
-		heads = append(heads, f.Params)
-	}
-	all = append(all, kinds, strs, heads, anys(p.Globals))
-	for i := range 3 {
-		one, f := at(p.Types, i), at(p.Funcs, i)
-		var ops []any
-		for _, in := range f.Code {
-			ops = append(ops, in.Op)
-		}
-		all = append(all, anys(one.Fields), anys(f.Locals), ops)
-		for j := range 3 {
-			all = append(all, anys(at(f.Code, j).Args))
-		}
-	}
-	return all
-}
-
-func at[T any](list []T, i int) (one T) {
-	if i < len(list) {
-		return list[i]
-	}
-	return one
-}
-
-func anys(list []int) (all []any) {
-	for _, n := range list {
-		all = append(all, n)
-	}
-	return all
 }
 
 // R4: each list of bytes that Encode answers is memory of its own.

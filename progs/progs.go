@@ -1,4 +1,4 @@
-// Package progs is for the tests of the layers that are handed programs. It is no layer: it copies programs, tells where their numbers stand, and gives their lists spare room, into which a call might look or write by mistake.
+// Package progs is for the tests of the layers that are handed programs. It is no layer: it copies programs, draws them, tells where their numbers stand, which of them can be written and whether their lists are apart, and gives these spare room, into which a call might look or write by mistake.
 package progs
 
 import "heddle/api"

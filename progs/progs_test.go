@@ -2,9 +2,11 @@ package progs_test
 
 import (
 	"reflect"
+	"strconv"
 	"testing"
 
 	"heddle/api"
+	"heddle/code"
 	"heddle/progs"
 )
 
@@ -118,5 +120,134 @@ func TestWhole(t *testing.T) {
 	spoil(&whole)
 	if !reflect.DeepEqual(progs.Copy(q), sample()) || reflect.DeepEqual(progs.Whole(q), whole) {
 		t.Errorf("the program changed with its copy: %v", q)
+	}
+}
+
+func TestApart(t *testing.T) {
+	if !progs.Apart(api.Prog{}) || !progs.Apart(sample()) || !progs.Apart(progs.Roomy(sample())) {
+		t.Error("lists that share nothing are not apart")
+	}
+	shared := make([]int, 4)
+	code := make([]api.Instr, 4)
+	for i, share := range []func(p *api.Prog){
+		func(p *api.Prog) { p.Types[0].Fields, p.Types[1].Fields = shared, shared },
+		func(p *api.Prog) { p.Types[0].Fields, p.Globals = shared, shared },
+		func(p *api.Prog) { p.Types[0].Fields, p.Globals = shared[:2], shared[2:] },
+		func(p *api.Prog) { p.Types[0].Fields, p.Globals = shared[:0], shared[3:] },
+		func(p *api.Prog) { p.Globals, p.Funcs[2].Locals = shared[:1], shared[:1] },
+		func(p *api.Prog) { p.Funcs[0].Locals, p.Funcs[1].Locals = shared, shared },
+		func(p *api.Prog) { p.Funcs[0].Code[0].Args, p.Funcs[0].Code[1].Args = shared, shared },
+		func(p *api.Prog) { p.Funcs[0].Code[0].Args, p.Globals = shared[:0], shared[:0] },
+		func(p *api.Prog) { p.Funcs[0].Code, p.Funcs[1].Code = code, code },
+		func(p *api.Prog) { p.Funcs[0].Code, p.Funcs[2].Code = code[:1], code[1:] },
+	} {
+		p := sample()
+		share(&p)
+		if progs.Apart(p) {
+			t.Errorf("lists that share memory are apart: %d", i)
+		}
+	}
+	apart := sample()
+	apart.Types[0].Fields, apart.Globals = shared[:2:2], shared[2:]
+	if !progs.Apart(apart) {
+		t.Error("lists that are cut apart are not apart")
+	}
+}
+
+func TestFull(t *testing.T) {
+	for letters, want := range map[string]api.Instr{
+		"":     {Op: 7},
+		"A":    {Op: 7, A: 1},
+		"ABCD": {Op: 7, A: 1, B: 2, C: 3, D: 4},
+		"AN":   {Op: 7, A: 1, N: 300},
+		"ABG":  {Op: 7, A: 1, B: 2, Args: []int{6, 7}},
+	} {
+		if in := progs.Full(7, letters); !reflect.DeepEqual(in, want) {
+			t.Errorf("Full(7, %s) = %v", letters, in)
+		}
+	}
+	in := api.Instr{Op: 7}
+	for i, letter := range "ABCDNG" {
+		in = progs.WithField(in, letter, i)
+	}
+	if want := (api.Instr{Op: 7, A: 0, B: 1, C: 2, D: 3, N: 4, Args: []int{5}}); !reflect.DeepEqual(in, want) {
+		t.Errorf("WithField: %v", in)
+	}
+}
+
+// Drawn programs can be written, are the same at each run, and have each kind and each operation among them.
+func TestDraw(t *testing.T) {
+	d, again := progs.Draw(1), progs.Draw(1)
+	seen := map[string]int{}
+	for range 2000 {
+		p := d.Program()
+		if !reflect.DeepEqual(p, again.Program()) {
+			t.Fatal("another program comes at another run")
+		}
+		if _, e := code.Encode(p); e != api.OK {
+			t.Fatalf("%v can't be written: %d", p, e)
+		}
+		for _, one := range p.Types {
+			seen["kind "+strconv.Itoa(one.Kind)]++
+		}
+		for _, f := range p.Funcs {
+			for _, in := range f.Code {
+				seen["op "+strconv.Itoa(in.Op)]++
+			}
+		}
+	}
+	if len(seen) != api.KIter+api.OpYield {
+		t.Errorf("some never come: %v", seen)
+	}
+	for range 1000 {
+		if n := d.Number(); n < 0 || n > 1<<31-1 {
+			t.Errorf("Number: %d", n)
+		}
+		if n := d.Below(7); n < 0 || n > 6 {
+			t.Errorf("Below(7): %d", n)
+		}
+	}
+}
+
+func letters(op int) string {
+	told, _ := code.Fields(op)
+	return told
+}
+
+// A sample has each kind and each operation, and can be written.
+func TestSample(t *testing.T) {
+	p := progs.Sample(letters)
+	if _, e := code.Encode(p); e != api.OK {
+		t.Errorf("the sample can't be written: %d", e)
+	}
+	seen := map[int]int{}
+	for _, one := range p.Types {
+		seen[-one.Kind]++
+	}
+	for _, f := range p.Funcs {
+		for _, in := range f.Code {
+			seen[in.Op]++
+		}
+	}
+	if len(seen) != api.KIter+api.OpYield || len(p.Strs) == 0 || len(p.Globals) == 0 || !progs.Apart(p) {
+		t.Errorf("something is missing: %v", p)
+	}
+}
+
+// Edges can be written or not, as they tell.
+func TestEdges(t *testing.T) {
+	count := map[bool]int{}
+	for _, edge := range progs.Edges(letters) {
+		want := api.ErrForm
+		if edge.Written {
+			want = api.OK
+		}
+		if _, e := code.Encode(edge.Prog); e != want {
+			t.Errorf("%v: %d", edge.Prog, e)
+		}
+		count[edge.Written]++
+	}
+	if count[true] < 150 || count[false] < 1000 {
+		t.Errorf("there are not enough: %v", count)
 	}
 }

@@ -38,19 +38,50 @@ func CanWrite(one api.Type) bool {
 	return len(one.Fields) == 0 || hasPart(one.Kind, fieldsPart)
 }
 
+// Numbers answers the numbers of a type's parts, in the order in which they are written, but not how many fields it has. The type can be written.
+func Numbers(one api.Type) (list []int) {
+	for part := range fieldsPart {
+		if hasPart(one.Kind, part) {
+			list = append(list, *numberOf(&one, part))
+		}
+	}
+	return append(list, one.Fields...)
+}
+
+// Of answers the type of a kind whose parts have the numbers of list. It is not ok if there is no such kind, or if it has not as many numbers.
+func Of(kind int, list []int) (one api.Type, ok bool) {
+	if kind < api.KBool || kind > api.KIter {
+		return api.Type{}, false
+	}
+	one.Kind = kind
+	for part := range fieldsPart {
+		if !hasPart(kind, part) {
+			continue
+		}
+		if len(list) == 0 {
+			return api.Type{}, false
+		}
+		*numberOf(&one, part), list = list[0], list[1:]
+	}
+	if hasPart(kind, fieldsPart) {
+		one.Fields, list = append(one.Fields, list...), nil
+	}
+	if len(list) > 0 {
+		return api.Type{}, false
+	}
+	return one, true
+}
+
 // Write puts the numbers of a table one by one. All its types can be written.
 func Write(ts []api.Type, put func(n int)) {
 	put(len(ts))
 	for _, one := range ts {
 		put(one.Kind)
-		for part := range partCount {
-			switch {
-			case !hasPart(one.Kind, part):
-			case part == fieldsPart:
-				putFields(one.Fields, put)
-			default:
-				put(*numberOf(&one, part))
-			}
+		if hasPart(one.Kind, fieldsPart) {
+			put(len(one.Fields))
+		}
+		for _, n := range Numbers(one) {
+			put(n)
 		}
 	}
 }
@@ -103,11 +134,4 @@ func numberOf(one *api.Type, part int) *int {
 		return &one.Elem
 	}
 	return &one.Len
-}
-
-func putFields(fields []int, put func(n int)) {
-	put(len(fields))
-	for _, f := range fields {
-		put(f)
-	}
 }

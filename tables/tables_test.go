@@ -13,11 +13,14 @@ import (
 
 const limit = numbers.Limit
 
-// each has a type of each kind, whose parts are no types, with its numbers.
-var each = []struct {
+// typed is a type with its numbers.
+type typed struct {
 	one  api.Type
 	told []int
-}{
+}
+
+// each has a type of each kind, whose parts are no types.
+var each = []typed{
 	{api.Type{Kind: api.KBool}, []int{1}},
 	{api.Type{Kind: api.KInt}, []int{2}},
 	{api.Type{Kind: api.KFloat}, []int{3}},
@@ -77,6 +80,65 @@ func TestCanWrite(t *testing.T) {
 		if tables.CanWrite(api.Type{Kind: kind}) {
 			t.Errorf("kind %d can be written", kind)
 		}
+	}
+}
+
+// numbersOf answers what Numbers has to, of a type with its numbers.
+func numbersOf(one api.Type, told []int) []int {
+	if one.Kind == api.KStruct {
+		return told[2:]
+	}
+	return told[1:]
+}
+
+// There and back: a type by its kind and its numbers.
+func TestNumbersAndOf(t *testing.T) {
+	for _, c := range each {
+		want := numbersOf(c.one, c.told)
+		list := tables.Numbers(c.one)
+		if !slices.Equal(list, want) {
+			t.Errorf("Numbers(%v) = %v, want %v", c.one, list, want)
+		}
+		one, ok := tables.Of(c.one.Kind, want)
+		if !reflect.DeepEqual(one, c.one) || !ok {
+			t.Errorf("Of(%d, %v) = %v, %v", c.one.Kind, want, one, ok)
+		}
+	}
+}
+
+// A kind that is none, and as many numbers as a kind has not.
+func TestOfNothing(t *testing.T) {
+	for kind := -1; kind <= 12; kind++ {
+		for count := range 5 {
+			list := []int{1, 2, 3, 4}[:count]
+			as := slices.IndexFunc(each, func(c typed) bool { return c.one.Kind == kind })
+			want := as >= 0 && (kind == api.KStruct || len(each[as].told) == 1+count)
+			one, ok := tables.Of(kind, list)
+			if ok != want || !ok && !reflect.DeepEqual(one, api.Type{}) {
+				t.Errorf("Of(%d, %v) = %v, %v", kind, list, one, ok)
+			}
+		}
+	}
+	for _, kind := range []int{math.MinInt, 256 + 2, math.MaxInt} {
+		if one, ok := tables.Of(kind, nil); ok || one.Kind != 0 {
+			t.Errorf("Of(%d) = %v", kind, one)
+		}
+	}
+}
+
+// A type's fields and the numbers that it is made of share no memory, spare room included.
+func TestNumbersAreCopies(t *testing.T) {
+	list := []int{1, 2, 3, 4}
+	one, _ := tables.Of(api.KStruct, list[:2])
+	list[0] = 9
+	_ = append(one.Fields, 7)
+	if !slices.Equal(one.Fields, []int{1, 2}) || list[2] != 3 {
+		t.Errorf("%v, %v", one, list)
+	}
+	told := tables.Numbers(one)
+	told[0] = 8
+	if one.Fields[0] != 1 {
+		t.Errorf("the type has changed: %v", one)
 	}
 }
 

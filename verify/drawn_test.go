@@ -10,24 +10,14 @@ import (
 	"heddle/types"
 )
 
-// draw is a row of numbers that is the same at each run.
-type draw uint64
-
-func (d *draw) next() uint64 {
-	*d += 0x9e3779b97f4a7c15
-	n := uint64(*d)
-	n = (n ^ n>>30) * 0xbf58476d1ce4e5b9
-	n = (n ^ n>>27) * 0x94d049bb133111eb
-	return n ^ n>>31
-}
-
-func (d *draw) below(n int) int {
-	return int(d.next() % uint64(n))
+// draw draws programs that are sound, or nearly so.
+type draw struct {
+	progs.Draw
 }
 
 func (d *draw) list(count, below int) (list []int) {
 	for range count {
-		list = append(list, d.below(below))
+		list = append(list, d.Below(below))
 	}
 	return list
 }
@@ -35,21 +25,21 @@ func (d *draw) list(count, below int) (list []int) {
 // table answers a table of types that is sound.
 func (d *draw) table() []api.Type {
 	for {
-		count := 6 + d.below(12)
+		count := 6 + d.Below(12)
 		ts := []api.Type{{Kind: api.KBool}, {Kind: api.KInt}, {Kind: api.KStr}, {Kind: api.KIface}}
 		for t := len(ts); t < count; t++ {
-			one := api.Type{Kind: 1 + d.below(10)}
+			one := api.Type{Kind: 1 + d.Below(10)}
 			switch one.Kind {
 			case api.KPtr:
-				one.Elem = d.below(count)
+				one.Elem = d.Below(count)
 			case api.KMap:
-				one.Key, one.Elem = d.below(count), d.below(count)
+				one.Key, one.Elem = d.Below(count), d.Below(count)
 			case api.KStruct:
-				one.Fields = d.list(1+d.below(3), t)
+				one.Fields = d.list(1+d.Below(3), t)
 			case api.KArray:
-				one.Elem, one.Len = d.below(t), 1+d.below(4)
+				one.Elem, one.Len = d.Below(t), 1+d.Below(4)
 			case api.KIter:
-				one.Elem = d.below(count)
+				one.Elem = d.Below(count)
 			}
 			// What can't be so is drawn again, as far as it shows yet.
 			ts = append(ts, one)
@@ -85,17 +75,17 @@ func (d *draw) instr(op, top int) api.Instr {
 	for _, letter := range letters {
 		switch letter {
 		case 'A':
-			in.A = d.below(top)
+			in.A = d.Below(top)
 		case 'B':
-			in.B = d.below(top)
+			in.B = d.Below(top)
 		case 'C':
-			in.C = d.below(top)
+			in.C = d.Below(top)
 		case 'D':
-			in.D = d.below(20)
+			in.D = d.Below(20)
 		case 'N':
-			in.N = uint64(d.below(3))
+			in.N = uint64(d.Below(3))
 		case 'G':
-			in.Args = d.list(d.below(3), top)
+			in.Args = d.list(d.Below(3), top)
 		}
 	}
 	return in
@@ -104,7 +94,7 @@ func (d *draw) instr(op, top int) api.Instr {
 // soundInstr answers an instruction that is sound, if one was found soon enough.
 func (d *draw) soundInstr(m model) (in api.Instr) {
 	for range 5 {
-		op := 1 + d.below(opCount)
+		op := 1 + d.Below(opCount)
 		for range 500 {
 			if in = d.instr(op, len(m.f.Locals)+1); m.sound(in) {
 				return in
@@ -116,20 +106,20 @@ func (d *draw) soundInstr(m model) (in api.Instr) {
 
 // program answers one most of whose instructions are sound.
 func (d *draw) program(most int) api.Prog {
-	p := api.Prog{Types: table(), Strs: slices.Repeat([]string{"x"}, d.below(3))}
-	if d.below(2) == 0 {
+	p := api.Prog{Types: table(), Strs: slices.Repeat([]string{"x"}, d.Below(3))}
+	if d.Below(2) == 0 {
 		p.Types = d.table()
 	}
 	types := len(p.Types)
-	p.Globals = d.values(p, d.below(3))
-	for i := range 1 + d.below(3) {
-		f := api.Func{Code: make([]api.Instr, 1+d.below(most))}
+	p.Globals = d.values(p, d.Below(3))
+	for i := range 1 + d.Below(3) {
+		f := api.Func{Code: make([]api.Instr, 1+d.Below(most))}
 		if i > 0 {
-			f.Locals = d.values(p, d.below(3))
+			f.Locals = d.values(p, d.Below(3))
 			f.Params = len(f.Locals)
 		}
-		f.Locals = append(f.Locals, d.list(6+d.below(10), types)...)
-		if d.below(2) == 0 {
+		f.Locals = append(f.Locals, d.list(6+d.Below(10), types)...)
+		if d.Below(2) == 0 {
 			f.Result = 1 + d.values(p, 1)[0]
 		}
 		p.Funcs = append(p.Funcs, f)
@@ -139,7 +129,7 @@ func (d *draw) program(most int) api.Prog {
 		for i := range f.Code {
 			f.Code[i] = d.soundInstr(m)
 		}
-		if d.below(10) > 0 {
+		if d.Below(10) > 0 {
 			f.Code[len(f.Code)-1] = halt
 		}
 	}
@@ -149,7 +139,7 @@ func (d *draw) program(most int) api.Prog {
 // values answers types that are not KIter.
 func (d *draw) values(p api.Prog, count int) (list []int) {
 	for len(list) < count {
-		if t := d.below(len(p.Types)); value(p, t) {
+		if t := d.Below(len(p.Types)); value(p, t) {
 			list = append(list, t)
 		}
 	}
@@ -158,7 +148,7 @@ func (d *draw) values(p api.Prog, count int) (list []int) {
 
 // P19.1, held against the model: drawn programs, and each with some numbers changed.
 func TestDrawnPrograms(t *testing.T) {
-	d := draw(19)
+	d := draw{19}
 	count := map[string]int{}
 	seen := map[int]int{}
 	for range 2500 {
@@ -173,9 +163,9 @@ func TestDrawnPrograms(t *testing.T) {
 		}
 		for range 3 {
 			list := progs.Numbers(&p)
-			n := list[d.below(len(list))]
+			n := list[d.Below(len(list))]
 			before := *n
-			*n = []int{before + 1, before - 1, d.below(20), d.below(20), d.below(20), limit}[d.below(6)]
+			*n = []int{before + 1, before - 1, d.Below(20), d.Below(20), d.Below(20), limit}[d.Below(6)]
 			fn, at, e := hold(t, p)
 			switch {
 			case e == api.OK:
@@ -187,7 +177,7 @@ func TestDrawnPrograms(t *testing.T) {
 			default:
 				count["instruction"]++
 			}
-			if d.below(2) == 0 {
+			if d.Below(2) == 0 {
 				*n = before
 			}
 		}
@@ -207,31 +197,31 @@ func TestDrawnPrograms(t *testing.T) {
 
 // piece answers a few instructions, of which the first has that number: a loop, one with a fault, or a jump.
 func (d *draw) piece(first, whole int) []api.Instr {
-	list := loop(first, aMap, []int{anIter, another}[d.below(2)], aKey, []int{aValue, anInt}[d.below(2)])
-	switch d.below(7) {
+	list := loop(first, aMap, []int{anIter, another}[d.Below(2)], aKey, []int{aValue, anInt}[d.Below(2)])
+	switch d.Below(7) {
 	case 0:
-		return []api.Instr{{Op: api.OpIf, A: aFlag, B: d.below(whole)}}
+		return []api.Instr{{Op: api.OpIf, A: aFlag, B: d.Below(whole)}}
 	case 1:
-		return []api.Instr{{Op: api.OpJump, A: d.below(whole)}}
+		return []api.Instr{{Op: api.OpJump, A: d.Below(whole)}}
 	case 2:
 		return []api.Instr{{Op: api.OpYield}, {Op: api.OpOut, A: aKey}}
 	case 3:
-		if d.below(4) > 0 {
+		if d.Below(4) > 0 {
 			break
 		}
-		in := &list[d.below(len(list))]
-		n := []*int{&in.A, &in.B, &in.C, &in.D}[d.below(4)]
-		*n += d.below(3) - 1
+		in := &list[d.Below(len(list))]
+		n := []*int{&in.A, &in.B, &in.C, &in.D}[d.Below(4)]
+		*n += d.Below(3) - 1
 	}
 	return list
 }
 
 // P19.2, held against the model: drawn programs of loops and jumps.
 func TestDrawnLoops(t *testing.T) {
-	d := draw(20)
+	d := draw{20}
 	count := map[string]int{}
 	for range 30000 {
-		whole := 6 + d.below(20)
+		whole := 6 + d.Below(20)
 		var list []api.Instr
 		for len(list) < whole {
 			list = append(list, d.piece(len(list), whole)...)

@@ -7,6 +7,7 @@ import (
 
 	"heddle/api"
 	"heddle/code"
+	"heddle/progs"
 	"heddle/verify"
 )
 
@@ -99,18 +100,9 @@ func combine(in api.Instr, letters string, try func(in api.Instr)) {
 		combine(in, rest, try)
 		return
 	}
-	for _, n := range numbers(in.Op, rune(letters[0])) {
-		switch letters[0] {
-		case 'A':
-			in.A = n
-		case 'B':
-			in.B = n
-		case 'C':
-			in.C = n
-		case 'D':
-			in.D = n
-		}
-		combine(in, rest, try)
+	letter := rune(letters[0])
+	for _, n := range numbers(in.Op, letter) {
+		combine(progs.WithField(in, letter, n), rest, try)
 	}
 }
 
